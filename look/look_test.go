@@ -162,12 +162,14 @@ func follows(t *testing.T, d api.Doc, at int) {
 		t.Fatalf("at %d: Plain %q", at, plain)
 	}
 	n := d.Nodes[at]
-	if n.Kind == api.Text || isOne(n.Name, "script", "style", "template") {
+	if n.Kind == api.Text {
 		return
 	}
 	parts := ""
 	for _, kid := range n.Kids {
-		parts += look.Text(d, kid)
+		if d.Nodes[kid].Kind == api.Element || !isOne(n.Name, "script", "style", "template") {
+			parts += look.Text(d, kid)
+		}
 	}
 	if s := look.Text(d, at); s != parts {
 		t.Fatalf("at %d: Text %q, of what lies in it %q: %+v", at, s, parts, d)
@@ -351,11 +353,12 @@ func TestOnly(t *testing.T) {
 		{"<p>a</p>", nil, -1},
 		{"<p></p>", nil, -1},
 		{"<p><b></b><i></i></p>", nil, -1},
-		{"<p><b></b><i></i></p>", []string{"b"}, 2},
-		{"<p><b></b><i></i></p>", []string{"i"}, 3},
+		// It is alone among all that lie there, not among those of its name.
+		{"<p><b></b><i></i></p>", []string{"b"}, -1},
+		{"<p><b></b><i></i></p>", []string{"i"}, -1},
 		{"<p><b></b><i></i></p>", []string{"b", "i"}, -1},
-		{"<p><b></b><i></i><b></b></p>", []string{"b"}, -1},
-		{"<p><b></b><i></i><b></b></p>", []string{"i"}, 3},
+		{"<p><b></b><i></i><b></b></p>", []string{"i"}, -1},
+		{"<p>a<img><b>x</b></p>", []string{"img"}, -1},
 		{"<p><b></b><b></b><b></b></p>", []string{"b"}, -1},
 		{"<p><b></b><b></b><b></b></p>", nil, -1},
 		// What lies deeper does not count.
@@ -384,7 +387,9 @@ func TestText(t *testing.T) {
 		{"<p>a&lt;&nbsp;</p><p>b</p>", "a<\u00a0b"},
 		{"a<!--b-->c", "ac"},
 		{"a<script>b</script>c<style>d</style>e", "ace"},
-		{"a<template>b<p>c</p></template>d", "ad"},
+		// Hidden are those that lie in it itself, not those that lie deeper.
+		{"a<template>b<p>c</p>d</template>e", "ace"},
+		{"a<template>t<b>u<i>v</i></b></template><p>w</p>", "auvw"},
 		{"a<p><b><script>b</script></b>c</p>", "ac"},
 		{"<template><template>a</template>b</template>c", "c"},
 		{"a<title>b</title><textarea>c</textarea>", "abc"},
@@ -400,7 +405,7 @@ func TestText(t *testing.T) {
 func TestTextAt(t *testing.T) {
 	// 1 p, 2 Text, 3 script, 4 Text, 5 b, 6 Text, 7 template, 8 i, 9 Text, 10 Text
 	d := parse(t, "<p> a<script> s </script><b> c </b><template><i> d </i> e</template>")
-	for at, want := range []string{" a c ", " a c ", " a", "", " s ", " c ", " c ", "", " d ", " d ", " e"} {
+	for at, want := range []string{" a c  d ", " a c  d ", " a", "", " s ", " c ", " c ", " d ", " d ", " d ", " e"} {
 		if got := look.Text(d, at); got != want {
 			t.Errorf("Text at %d is %q, want %q", at, got, want)
 		}
@@ -410,7 +415,7 @@ func TestTextAt(t *testing.T) {
 	}
 	for _, name := range []string{"script", "style", "template", "b"} {
 		d := made(element(0, name), text(1, "x"), element(1, "i"), text(3, "y"))
-		want := ""
+		want := "y"
 		if name == "b" {
 			want = "xy"
 		}
@@ -440,19 +445,23 @@ func TestPlain(t *testing.T) {
 		{" \n<b>\f\r </b>&#9;x &#9;<i> </i>", "x"},
 		{"a  <b> b </b>\n c", "a   b \n c"},
 		{"&nbsp;x&nbsp;", "\u00a0x\u00a0"},
-		{"a<img alt=b src=c>d", "a b d"},
+		// A byte 32 stands around a src alone.
+		{"a<img alt=b src=c>d", "abd"},
 		{"a<img src=c>d", "a c d"},
-		{"a<img alt='' src=c>d", "a  d"},
-		{"a<img alt src=c>d", "a  d"},
-		{"a<img>d", "a  d"},
+		{"a<img src='' class=b>d", "a  d"},
+		{"a<img src>d", "a  d"},
+		{"a<img alt='' src=c>d", "ad"},
+		{"a<img alt src=c>d", "ad"},
+		{"a<img>d", "ad"},
 		{"<img alt=b>", "b"},
-		{"a<img alt=' b '>", "a  b"},
+		{"a<img alt=' b '>", "a b"},
 		{"<b><img src=b></b>c", "b c"},
-		{"<img alt='&lt;'><img src='/?a&amp;b'>", "<  /?a&b"},
+		{"<img alt='&lt;'><img src='/?a&amp;b'>", "< /?a&b"},
 		{"a<area alt=b><input value=c><object data=d>e", "ae"},
 		{"a<script>b<br></script>c<style>d</style>e<br>", "ace"},
-		{"a<template>b<br><img alt=c></template>d", "ad"},
-		{"a<template><p>b<br>c</template>d", "ad"},
+		// Only Texts are hidden.
+		{"a<template>b<br>c<img alt=d></template>e", "a\nde"},
+		{"a<template><p>b<br>c</template>d", "ab\ncd"},
 		{"a<hr>b", "ab"},
 	} {
 		if got := look.Plain(parse(t, c.s), 0); got != c.want {
@@ -461,16 +470,21 @@ func TestPlain(t *testing.T) {
 	}
 	// Of what is asked for only what lies in it is told.
 	d := parse(t, "<p><img alt=a src=b><br>c</p>")
-	for at, want := range []string{"a \nc", "a \nc", "", "", "c"} {
+	for at, want := range []string{"a\nc", "a\nc", "", "", "c"} {
 		if got := look.Plain(d, at); got != want {
 			t.Errorf("Plain at %d is %q, want %q", at, got, want)
 		}
 	}
 	d = made(element(0, "img", "alt", "a"), text(1, " x"), element(0, "br"), text(3, "y "), text(0, "z"))
-	for at, want := range []string{"a \nz", "x", "x", "y", "y", "z"} {
+	for at, want := range []string{"a x\ny z", "x", "x", "y", "y", "z"} {
 		if got := look.Plain(d, at); got != want {
 			t.Errorf("Plain at %d is %q, want %q", at, got, want)
 		}
+	}
+	// In a br and an img, too, Texts are told behind what stands for it, and so is what lies in these.
+	d = made(text(0, "a"), element(0, "br"), element(2, "b"), text(3, "b"), element(2, "img", "src", "c"), element(5, "img", "alt", "d"), text(6, "e"), element(2, "template"), text(8, "f"))
+	if plain, text := look.Plain(d, 0), look.Text(d, 0); plain != "a\nb c de" || text != "abe" {
+		t.Errorf("%q, %q", plain, text)
 	}
 	d = made(element(0, "IMG", "alt", "a"), element(0, "Br"), text(0, "x"), element(0, "img", "ALT", "b", "src", "c", "src", "d"))
 	if got := look.Plain(d, 0); got != "x c" {
@@ -667,7 +681,7 @@ func TestNoTree(t *testing.T) {
 			for _, at := range []int{0, 1, 2, 3, count - 1} {
 				tellsNothing(t, "too many nodes", d, at)
 			}
-		} else if len(look.Below(d, 0)) != count-2 || !look.Has(d, count-1, "h-x") || look.Text(d, 0) != "x" || look.Only(d, 0, "b") != 1 {
+		} else if len(look.Below(d, 0)) != count-2 || !look.Has(d, count-1, "h-x") || look.Text(d, 0) != "x" || len(look.Find(d, 0, "p")) != count-3 || look.Only(d, 0) != -1 {
 			t.Errorf("%d nodes tell too little", count)
 		}
 	}

@@ -26,35 +26,45 @@ type teller struct {
 	out     strings.Builder
 }
 
-// kids tells what lies in a node, if that does not hide it.
+// kids tells what lies in a node, and what lies in that. A node that hides the Texts that lie in it itself hides none that lie deeper.
 func (t *teller) kids(at int) {
-	if isOf(t.nodes[at], "script", "style", "template") {
-		return
-	}
+	hides := isOf(t.nodes[at], "script", "style", "template")
 	for _, kid := range t.nodes[at].Kids {
-		t.node(kid)
+		n := t.nodes[kid]
+		switch {
+		case n.Kind == api.Text && !hides:
+			t.out.WriteString(n.Text)
+		case n.Kind == api.Element:
+			t.element(kid)
+		}
 	}
 }
 
-func (t *teller) node(at int) {
-	n := t.nodes[at]
-	switch {
-	case n.Kind == api.Text:
-		t.out.WriteString(n.Text)
-	case t.isPlain && isOf(n, "br"):
-		t.out.WriteString("\n")
-	case t.isPlain && isOf(n, "img"):
-		t.out.WriteString(" " + ofImage(n) + " ")
-	default:
-		t.kids(at)
+// element tells what stands for an element, then what lies in it: in a tree that was not parsed there may be Texts in a br or an img, too.
+func (t *teller) element(at int) {
+	if t.isPlain {
+		t.out.WriteString(standsFor(t.nodes[at]))
 	}
+	t.kids(at)
 }
 
-// ofImage is what stands for an image: an alt that is empty is one, too.
+func standsFor(n api.Node) string {
+	switch n.Name {
+	case "br":
+		return "\n"
+	case "img":
+		return ofImage(n)
+	}
+	return ""
+}
+
+// ofImage is what stands for an image. An alt that is empty is one, too; the bytes 32 are said of the src alone.
 func ofImage(n api.Node) string {
 	if alt, is := attr(n, "alt"); is {
 		return alt
 	}
-	src, _ := attr(n, "src")
-	return src
+	if src, is := attr(n, "src"); is {
+		return " " + src + " "
+	}
+	return ""
 }

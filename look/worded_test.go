@@ -8,7 +8,7 @@ import (
 	"cringle/tree"
 )
 
-// What the chapter's words say, written out once more: each node is asked by itself, which ones stand above it.
+// What the chapter's words say, written out once more: each node is asked by itself, what it lies in.
 
 const blanks = "\t\n\f\r "
 
@@ -23,27 +23,12 @@ func isBelow(d api.Doc, at, of int) bool {
 	return false
 }
 
-// above are the names of those above a node: first that of the one it lies in, last that of the one that is asked.
-func above(d api.Doc, at, asked int) []string {
-	var names []string
-	for at != asked {
-		at = d.Nodes[at].Up
-		names = append(names, d.Nodes[at].Name)
-	}
-	return names
-}
-
 func isOne(name string, of ...string) bool { return slices.Contains(of, name) }
 
-// isHidden tells whether one that lies in a node, or in what lies in that, is hidden there.
-func isHidden(d api.Doc, at, asked int) bool {
-	return slices.ContainsFunc(above(d, at, asked), func(name string) bool { return isOne(name, "script", "style", "template") })
-}
-
-// isStoodFor tells whether it lies in something else for which a sign or an attribute stands.
-func isStoodFor(d api.Doc, at, asked int) bool {
-	names := above(d, at, asked)
-	return slices.ContainsFunc(names[:len(names)-1], func(name string) bool { return isOne(name, "br", "img") })
+// isHidden tells whether a Text lies in one that hides it.
+func isHidden(d api.Doc, at int) bool {
+	n := d.Nodes[at]
+	return n.Kind == api.Text && isOne(d.Nodes[n.Up].Name, "script", "style", "template")
 }
 
 func wordedAttr(d api.Doc, at int, name string) (string, bool) {
@@ -118,12 +103,10 @@ func named(d api.Doc, places []int, names ...string) []int {
 }
 
 func wordedOnly(d api.Doc, at int, names ...string) int {
-	kids := wordedKids(d, at)
-	if len(names) > 0 {
-		kids = named(d, kids, names...)
-	}
-	if len(kids) == 1 {
-		return kids[0]
+	for _, alone := range wordedKids(d, at) {
+		if len(wordedKids(d, at)) == 1 && (len(names) == 0 || isOne(d.Nodes[alone].Name, names...)) {
+			return alone
+		}
 	}
 	return -1
 }
@@ -142,7 +125,7 @@ func inOrder(d api.Doc, at int) []int {
 func wordedText(d api.Doc, at int) string {
 	s := d.Nodes[at].Text
 	for _, other := range inOrder(d, at) {
-		if !isHidden(d, other, at) {
+		if !isHidden(d, other) {
 			s += d.Nodes[other].Text
 		}
 	}
@@ -152,20 +135,19 @@ func wordedText(d api.Doc, at int) string {
 func wordedPlain(d api.Doc, at int) string {
 	s := d.Nodes[at].Text
 	for _, other := range inOrder(d, at) {
-		if isHidden(d, other, at) || isStoodFor(d, other, at) {
+		if isHidden(d, other) {
 			continue
 		}
-		switch d.Nodes[other].Name {
-		case "br":
+		s += d.Nodes[other].Text
+		alt, hasAlt := wordedAttr(d, other, "alt")
+		src, hasSrc := wordedAttr(d, other, "src")
+		switch name := d.Nodes[other].Name; {
+		case name == "br":
 			s += "\n"
-		case "img":
-			told, is := wordedAttr(d, other, "alt")
-			if !is {
-				told, _ = wordedAttr(d, other, "src")
-			}
-			s += " " + told + " "
-		default:
-			s += d.Nodes[other].Text
+		case name == "img" && hasAlt:
+			s += alt
+		case name == "img" && hasSrc:
+			s += " " + src + " "
 		}
 	}
 	return strings.Trim(s, blanks)
